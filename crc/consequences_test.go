@@ -130,7 +130,7 @@ func TestResultsShareNoMemory(t *testing.T) {
 // overwrite gives each byte of b another value.
 func overwrite(b []byte) {
 	for i := range b {
-		b[i] ^= 0xff
+		b[i] += 85
 	}
 }
 

@@ -134,7 +134,7 @@ func TestArgumentsStayAsTheyAre(t *testing.T) {
 func overwrite(l []api.Dot) {
 	l = l[:cap(l)]
 	for i := range l {
-		l[i] = dotOf(l[i].Replica^0xff, l[i].Counter^0xff)
+		l[i] = dotOf(l[i].Replica+1000, l[i].Counter-1000)
 	}
 }
 

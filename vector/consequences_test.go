@@ -174,7 +174,7 @@ func withRoom(v api.Vector) (given, room api.Vector) {
 func overwrite(v api.Vector) {
 	v = v[:cap(v)]
 	for i := range v {
-		v[i] = dotOf(v[i].Replica^0xff, v[i].Counter^0xff)
+		v[i] = dotOf(v[i].Replica+1000, v[i].Counter-1000)
 	}
 }
 
